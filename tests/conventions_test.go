@@ -1,0 +1,284 @@
+package tests
+
+import (
+	"fmt"
+	"math/rand"
+	"reflect"
+	"testing"
+
+	"loop.example/confluence/impl"
+)
+
+// call is a function with its arguments; the arguments are made for this call alone.
+type call struct {
+	name string
+	f    any
+	args []any
+}
+
+// run performs a call and returns its results; a panic is an error of the test.
+func (c call) run(t *testing.T) (results []reflect.Value) {
+	defer func() {
+		if p := recover(); p != nil {
+			t.Errorf("%s%v panics: %v", c.name, c.args, p)
+		}
+	}()
+	var in []reflect.Value
+	for _, a := range c.args {
+		in = append(in, reflect.ValueOf(a))
+	}
+	return reflect.ValueOf(c.f).Call(in)
+}
+
+// span is the memory of a slice, with its spare capacity.
+type span struct {
+	from, to uintptr
+}
+
+func (s span) meets(other span) bool {
+	return s.from < other.to && other.from < s.to
+}
+
+// spans lists the memory of all slices in v.
+func spans(v reflect.Value) []span {
+	var list []span
+	switch v.Kind() {
+	case reflect.Slice:
+		if v.Cap() > 0 {
+			list = append(list, span{v.Pointer(), v.Pointer() + uintptr(v.Cap())*v.Type().Elem().Size()})
+		}
+		for i := 0; i < v.Len(); i++ {
+			list = append(list, spans(v.Index(i))...)
+		}
+	case reflect.Struct:
+		for i := 0; i < v.NumField(); i++ {
+			list = append(list, spans(v.Field(i))...)
+		}
+	}
+	return list
+}
+
+// picture writes v with the spare capacity of its slices.
+func picture(v reflect.Value) string {
+	switch v.Kind() {
+	case reflect.Slice:
+		s := fmt.Sprintf("%d of [", v.Len())
+		for i := 0; i < v.Cap(); i++ {
+			s += picture(v.Slice(0, v.Cap()).Index(i)) + " "
+		}
+		return s + "]"
+	case reflect.Struct:
+		s := "{"
+		for i := 0; i < v.NumField(); i++ {
+			s += picture(v.Field(i)) + " "
+		}
+		return s + "}"
+	}
+	return fmt.Sprintf("%#v", v.Interface())
+}
+
+// picture writes the arguments of a call.
+func (c call) picture() string {
+	s := ""
+	for _, a := range c.args {
+		s += picture(reflect.ValueOf(a)) + " "
+	}
+	return s
+}
+
+// roomy is p in a slice with spare capacity that is not zero.
+func roomy(p impl.Past) impl.Past {
+	tags := make([]impl.Tag, len(p.Tags), len(p.Tags)+2)
+	copy(tags, p.Tags)
+	full := tags[:cap(tags)]
+	full[len(tags)], full[len(tags)+1] = tagAt(7, 1), tagAt(8, 2)
+	return impl.Past{Tags: tags}
+}
+
+func roomyVer(v impl.Ver) impl.Ver {
+	v.Past = roomy(v.Past)
+	return v
+}
+
+func roomyStore(s impl.Store) impl.Store {
+	vers := make([]impl.Ver, len(s.Vers), len(s.Vers)+1)
+	for i, v := range s.Vers {
+		vers[i] = roomyVer(v)
+	}
+	vers[:cap(vers)][len(vers)] = value(0, tagAt(9, 0), "spare")
+	return impl.Store{Vers: vers}
+}
+
+// sharedStore has versions whose slices are one and the same.
+func sharedStore() impl.Store {
+	p := roomy(impl.PastNone())
+	s := impl.StoreNew()
+	for k := range s.Vers {
+		s.Vers[k] = impl.Ver{Key: k, Tag: tagAt(k+1, 0), Past: p, Text: "a"}
+	}
+	return s
+}
+
+func tagCalls() []call {
+	var list []call
+	for _, a := range tagList() {
+		list = append(list, call{"TagOk", impl.TagOk, []any{a}}, call{"TagPut", impl.TagPut, []any{a}})
+		for _, b := range tagList() {
+			list = append(list, call{"TagLess", impl.TagLess, []any{a, b}}, call{"TagMax", impl.TagMax, []any{a, b}})
+		}
+	}
+	return list
+}
+
+func textCalls() []call {
+	r := rand.New(rand.NewSource(5))
+	list := []call{{"TagGet", impl.TagGet, []any{""}}, {"VerGet", impl.VerGet, []any{""}}}
+	for _, v := range verList() {
+		list = append(list, call{"VerGet", impl.VerGet, []any{verText(v)}})
+	}
+	for i := 0; i < 3000; i++ {
+		b := make([]byte, r.Intn(40))
+		for j := range b {
+			b[j] = "0123.-= a\xff"[r.Intn(10)]
+		}
+		list = append(list, call{"TagGet", impl.TagGet, []any{string(b)}}, call{"VerGet", impl.VerGet, []any{string(b)}})
+	}
+	return list
+}
+
+func pastCalls() []call {
+	list := []call{{"PastNone", impl.PastNone, nil}}
+	pasts := append(pastList()[:12], badPasts()...)
+	for _, a := range pasts {
+		list = append(list, call{"PastOk", impl.PastOk, []any{roomy(a)}})
+		for _, b := range pasts {
+			list = append(list, call{"PastJoin", impl.PastJoin, []any{roomy(a), roomy(b)}}, call{"PastWithin", impl.PastWithin, []any{roomy(a), roomy(b)}})
+		}
+		same := roomy(a)
+		list = append(list, call{"PastJoin", impl.PastJoin, []any{same, same}})
+	}
+	return list
+}
+
+func manyVers() []impl.Ver {
+	list := append(verList()[:12], impl.Ver{})
+	for _, v := range badVers() {
+		list = append(list, v)
+	}
+	for _, v := range nearZeroVers() {
+		list = append(list, v)
+	}
+	return list
+}
+
+func manyStores() []impl.Store {
+	list := append(storeList()[:12], sharedStore())
+	for name, s := range badStores() {
+		if len(name) < 10 {
+			list = append(list, s)
+		}
+	}
+	return list
+}
+
+func storeCalls() []call {
+	list := []call{{"StoreNew", impl.StoreNew, nil}}
+	for _, v := range manyVers() {
+		list = append(list, call{"VerOk", impl.VerOk, []any{roomyVer(v)}}, call{"VerPut", impl.VerPut, []any{roomyVer(v)}})
+	}
+	for _, s := range manyStores() {
+		list = append(list, call{"StoreOk", impl.StoreOk, []any{roomyStore(s)}}, call{"StoreTags", impl.StoreTags, []any{roomyStore(s)}}, call{"StoreClosed", impl.StoreClosed, []any{roomyStore(s)}})
+		for _, v := range manyVers() {
+			list = append(list, call{"StoreAdd", impl.StoreAdd, []any{roomyStore(s), roomyVer(v)}})
+		}
+		for _, other := range manyStores() {
+			list = append(list, call{"StoreJoin", impl.StoreJoin, []any{roomyStore(s), roomyStore(other)}})
+		}
+		same := roomyStore(s)
+		list = append(list, call{"StoreJoin", impl.StoreJoin, []any{same, same}})
+	}
+	shared := sharedStore()
+	list = append(list, call{"StoreJoin", impl.StoreJoin, []any{shared, shared}})
+	late := impl.Ver{Key: 1, Tag: tagAt(9, 0), Past: shared.Vers[0].Past, Text: "b"}
+	return append(list, call{"StoreAdd", impl.StoreAdd, []any{shared, late}})
+}
+
+func allCalls() []call {
+	list := append(tagCalls(), textCalls()...)
+	list = append(list, pastCalls()...)
+	return append(list, storeCalls()...)
+}
+
+func TestFunctionsReturnAndChangeNoArgument(t *testing.T) {
+	for _, c := range allCalls() {
+		before := c.picture()
+		c.run(t)
+		if after := c.picture(); before != after {
+			t.Errorf("%s changes its arguments: %s becomes %s", c.name, before, after)
+		}
+	}
+}
+
+func TestResultsShareNoMemory(t *testing.T) {
+	for _, c := range allCalls() {
+		var given, made []span
+		for _, a := range c.args {
+			given = append(given, spans(reflect.ValueOf(a))...)
+		}
+		for _, r := range c.run(t) {
+			made = append(made, spans(r)...)
+		}
+		for i, m := range made {
+			for _, g := range given {
+				if m.meets(g) {
+					t.Errorf("%s%v shares memory with an argument", c.name, c.args)
+				}
+			}
+			for _, other := range made[:i] {
+				if m.meets(other) {
+					t.Errorf("%s%v shares memory within its result", c.name, c.args)
+				}
+			}
+		}
+	}
+}
+
+func TestFunctionsKeepNoState(t *testing.T) {
+	for _, c := range allCalls() {
+		first := c.run(t)
+		text := pictures(first)
+		for _, r := range first {
+			spoil(r)
+		}
+		if again := pictures(c.run(t)); again != text {
+			t.Errorf("%s%v is first %s, then %s", c.name, c.args, text, again)
+		}
+	}
+}
+
+// pictures writes results without their spare capacity, which is no part of the value.
+func pictures(list []reflect.Value) string {
+	s := ""
+	for _, v := range list {
+		s += fmt.Sprintf("%v ", v.Interface())
+	}
+	return s
+}
+
+// spoil overwrites all elements of all slices in v.
+func spoil(v reflect.Value) {
+	switch v.Kind() {
+	case reflect.Slice:
+		for i := 0; i < v.Len(); i++ {
+			spoil(v.Index(i))
+		}
+	case reflect.Struct:
+		for i := 0; i < v.NumField(); i++ {
+			spoil(v.Field(i))
+		}
+	case reflect.Int:
+		if v.CanSet() {
+			v.SetInt(77)
+		}
+	}
+}
