@@ -1,6 +1,7 @@
 package impl
 
 import (
+	"slices"
 	"strconv"
 	"strings"
 )
@@ -163,9 +164,13 @@ func StoreOk(s Store) bool {
 	return true
 }
 
-// none is not a comparison with Ver{}, because a nil slice and an empty one are the same.
 func (v Ver) none() bool {
-	return v.Key == 0 && v.Tag == Tag{} && len(v.Past.Tags) == 0 && v.Text == "" && !v.Gone
+	return v.same(Ver{})
+}
+
+// same takes a nil slice and an empty one as the same.
+func (v Ver) same(other Ver) bool {
+	return v.Key == other.Key && v.Tag == other.Tag && slices.Equal(v.Past.Tags, other.Past.Tags) && v.Text == other.Text && v.Gone == other.Gone
 }
 
 // StoreNew is a new store.

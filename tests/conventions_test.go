@@ -39,7 +39,7 @@ func (s span) meets(other span) bool {
 	return s.from < other.to && other.from < s.to
 }
 
-// spans lists the memory of all slices in v.
+// spans lists the memory of all slices in v, and of those in spare capacity.
 func spans(v reflect.Value) []span {
 	var list []span
 	switch v.Kind() {
@@ -47,8 +47,8 @@ func spans(v reflect.Value) []span {
 		if v.Cap() > 0 {
 			list = append(list, span{v.Pointer(), v.Pointer() + uintptr(v.Cap())*v.Type().Elem().Size()})
 		}
-		for i := 0; i < v.Len(); i++ {
-			list = append(list, spans(v.Index(i))...)
+		for i := 0; i < v.Cap(); i++ {
+			list = append(list, spans(v.Slice(0, v.Cap()).Index(i))...)
 		}
 	case reflect.Struct:
 		for i := 0; i < v.NumField(); i++ {
@@ -203,10 +203,65 @@ func storeCalls() []call {
 	return append(list, call{"StoreAdd", impl.StoreAdd, []any{shared, late}})
 }
 
+func roomyChain(c impl.Chain) impl.Chain {
+	nodes := make([]impl.Node, len(c.Nodes), len(c.Nodes)+2)
+	for i, n := range c.Nodes {
+		nodes[i] = impl.Node{Store: roomyStore(n.Store), Wait: roomyStore(impl.Store{Vers: n.Wait}).Vers}
+	}
+	nodes[:cap(nodes)][len(nodes)] = impl.Node{Store: impl.StoreNew()}
+	return impl.Chain{Nodes: nodes}
+}
+
+// sharedChain has nodes that share a store, and a waiting version that shares with it.
+func sharedChain() impl.Chain {
+	s := sharedStore()
+	head := roomyStore(s)
+	wait := impl.Ver{Key: 1, Tag: tagAt(9, 0), Past: s.Vers[0].Past, Text: "b"}
+	head.Vers[1] = wait
+	return impl.Chain{Nodes: []impl.Node{{Store: head, Wait: []impl.Ver{wait}}, {Store: s}, {Store: s}}}
+}
+
+func manyChains() []impl.Chain {
+	list := append(chainList()[:30], goodChain(), sharedChain())
+	for name, c := range badChains() {
+		if len(name) < 20 {
+			list = append(list, c)
+		}
+	}
+	return list
+}
+
+func chainCalls() []call {
+	var list []call
+	add := func(c impl.Chain) {
+		list = append(list, call{"ChainOk", impl.ChainOk, []any{c}}, call{"ChainStable", impl.ChainStable, []any{c}}, call{"ChainJoin", impl.ChainJoin, []any{c}})
+		for _, k := range places() {
+			list = append(list, call{"ChainPass", impl.ChainPass, []any{c, k}}, call{"ChainFall", impl.ChainFall, []any{c, k}})
+			list = append(list, call{"ChainShows", impl.ChainShows, []any{c, k, 1}}, call{"ChainShows", impl.ChainShows, []any{c, 0, k}})
+		}
+		for _, v := range verList()[:9] {
+			list = append(list, call{"ChainPut", impl.ChainPut, []any{c, roomyVer(v)}})
+		}
+		list = append(list, call{"ChainPut", impl.ChainPut, []any{c, impl.Ver{}}})
+	}
+	for _, c := range manyChains() {
+		add(roomyChain(c))
+	}
+	add(sharedChain())
+	for _, v := range manyVers() {
+		list = append(list, call{"ChainPut", impl.ChainPut, []any{roomyChain(goodChain()), roomyVer(v)}})
+	}
+	for _, n := range places() {
+		list = append(list, call{"ChainNew", impl.ChainNew, []any{n}})
+	}
+	return list
+}
+
 func allCalls() []call {
 	list := append(tagCalls(), textCalls()...)
 	list = append(list, pastCalls()...)
-	return append(list, storeCalls()...)
+	list = append(list, storeCalls()...)
+	return append(list, chainCalls()...)
 }
 
 func TestFunctionsReturnAndChangeNoArgument(t *testing.T) {
