@@ -257,11 +257,94 @@ func chainCalls() []call {
 	return list
 }
 
+func roomyPlace(p impl.Place) impl.Place {
+	roomyVers := func(list []impl.Ver) []impl.Ver {
+		return roomyStore(impl.Store{Vers: list}).Vers
+	}
+	p.Chain, p.Log = roomyChain(p.Chain), roomyVers(p.Log)
+	got := make([][]impl.Ver, len(p.Got), len(p.Got)+1)
+	for i, log := range p.Got {
+		got[i] = roomyVers(log)
+	}
+	got[:cap(got)][len(got)] = []impl.Ver{value(0, tagAt(9, 0), "spare")}
+	p.Got = got
+	return p
+}
+
+// sharedPlace has logs that share with each other and with the chain.
+func sharedPlace() impl.Place {
+	c := sharedChain()
+	past := c.Nodes[0].Store.Vers[0].Past
+	both := []impl.Ver{{Key: 0, Tag: tagAt(1, 0), Past: past, Text: "a"}, {Key: 3, Tag: tagAt(10, 1), Past: past}, {Key: 2, Tag: tagAt(11, 2), Past: past, Gone: true}}
+	return impl.Place{Clock: 9, Chain: c, Log: both[:1], Got: [][]impl.Ver{both[1:1], both[1:2], both[2:]}, Fell: false}
+}
+
+func manyPlaces() []impl.Place {
+	list := append(newPlaces()[:5], goodPlace(), sharedPlace())
+	for i, p := range edgePlaces() {
+		if i%5 == 0 && len(p.Log) < 60 && len(p.Got[1]) < 60 {
+			list = append(list, p)
+		}
+	}
+	for i, p := range placeList() {
+		if i%8 == 0 && len(p.Log) < 30 && len(p.Got[1]) < 30 {
+			list = append(list, p)
+		}
+	}
+	for name, p := range badPlaces() {
+		if len(name) < 13 {
+			list = append(list, p)
+		}
+	}
+	return list
+}
+
+// callsWith is a few calls of every function that takes a data centre.
+func callsWith(p impl.Place) []call {
+	list := []call{{"PlaceOk", impl.PlaceOk, []any{p}}, {"PlaceJoin", impl.PlaceJoin, []any{p}}}
+	for from := -1; from <= 3; from++ {
+		at := 0
+		if from >= 0 && from < len(p.Got) {
+			at = len(p.Got[from])
+		}
+		heard := roomyVer(tombstone(1, tagAt(99, from)))
+		list = append(list, call{"PlaceTake", impl.PlaceTake, []any{p, from}}, call{"PlaceHear", impl.PlaceHear, []any{p, from, at, heard}})
+	}
+	for node := -1; node <= 4; node++ {
+		list = append(list, call{"PlacePass", impl.PlacePass, []any{p, node}}, call{"PlaceFall", impl.PlaceFall, []any{p, node}})
+		list = append(list, call{"PlaceWrite", impl.PlaceWrite, []any{p, node, "a", false, roomy(impl.PastNone())}})
+	}
+	return list
+}
+
+func placeCalls() []call {
+	list := callsWith(sharedPlace())
+	for _, p := range manyPlaces() {
+		list = append(list, callsWith(roomyPlace(p))...)
+	}
+	good := roomyPlace(goodPlace())
+	for _, k := range places() {
+		list = append(list, call{"PlaceNew", impl.PlaceNew, []any{k, 1}}, call{"PlaceNew", impl.PlaceNew, []any{1, k}})
+		list = append(list, call{"PlacePass", impl.PlacePass, []any{good, k}}, call{"PlaceFall", impl.PlaceFall, []any{good, k}})
+		list = append(list, call{"PlaceTake", impl.PlaceTake, []any{good, k}}, call{"PlaceHear", impl.PlaceHear, []any{good, 2, k, value(0, tagAt(99, 2), "x")}})
+		list = append(list, call{"PlaceHear", impl.PlaceHear, []any{good, k, 0, value(0, tagAt(99, 2), "x")}}, call{"PlaceWrite", impl.PlaceWrite, []any{good, k, "", true, impl.PastNone()}})
+	}
+	for _, v := range manyVers() {
+		list = append(list, call{"PlaceHear", impl.PlaceHear, []any{good, 2, 2, roomyVer(v)}})
+		list = append(list, call{"PlaceWrite", impl.PlaceWrite, []any{good, v.Key, v.Text, v.Gone, roomy(v.Past)}})
+	}
+	shared := sharedPlace()
+	past := shared.Chain.Nodes[0].Store.Vers[0].Past
+	list = append(list, call{"PlaceWrite", impl.PlaceWrite, []any{shared, 2, "x", false, past}})
+	return append(list, call{"PlaceHear", impl.PlaceHear, []any{shared, 1, 1, impl.Ver{Key: 1, Tag: tagAt(99, 1), Past: past}}})
+}
+
 func allCalls() []call {
 	list := append(tagCalls(), textCalls()...)
 	list = append(list, pastCalls()...)
 	list = append(list, storeCalls()...)
-	return append(list, chainCalls()...)
+	list = append(list, chainCalls()...)
+	return append(list, placeCalls()...)
 }
 
 func TestFunctionsReturnAndChangeNoArgument(t *testing.T) {
