@@ -339,12 +339,135 @@ func placeCalls() []call {
 	return append(list, call{"PlaceHear", impl.PlaceHear, []any{shared, 1, 1, impl.Ver{Key: 1, Tag: tagAt(99, 1), Past: past}}})
 }
 
+// roomyList is a copy with spare capacity that is not zero.
+func roomyList[T any](list []T, spare T) []T {
+	out := append(make([]T, 0, len(list)+2), list...)
+	full := out[:cap(out)]
+	full[len(out)], full[len(out)+1] = spare, spare
+	return out
+}
+
+func roomyWorld(w impl.World) impl.World {
+	w = copyOfWorld(w)
+	for i, p := range w.Places {
+		w.Places[i] = roomyPlace(p)
+	}
+	for i, s := range w.Sess {
+		w.Sess[i].Past = roomy(s.Past)
+	}
+	for i, f := range w.Net {
+		w.Net[i].Ver = roomyVer(f.Ver)
+	}
+	w.Places, w.Hist = roomyList(w.Places, impl.PlaceNew(2, 1)), roomyList(w.Hist, wrote(3, 3, tagAt(9, 0)))
+	w.Sess = roomyList(w.Sess, impl.Sess{Place: 2, Past: impl.PastNone()})
+	w.Net = roomyList(w.Net, impl.Frame{From: 1, To: 2, Ver: value(0, tagAt(9, 1), "spare")})
+	return w
+}
+
+// sharedWorld has data centres that share their stores and logs, and frames and clients
+// that share with those.
+func sharedWorld() impl.World {
+	store := sharedStore()
+	past := store.Vers[0].Past
+	log := []impl.Ver{store.Vers[0], store.Vers[1], store.Vers[2], {Key: 3, Tag: tagAt(9, 0), Past: past}}
+	var w impl.World
+	for me := 0; me < 3; me++ {
+		w.Places = append(w.Places, impl.Place{Me: me, Clock: 9, Chain: impl.Chain{Nodes: []impl.Node{{Store: store}, {Store: store}}}, Got: [][]impl.Ver{log[:2], nil, nil}})
+	}
+	w.Places[0].Log, w.Places[0].Got[0] = log, nil
+	for _, place := range []int{0, 1, 2, 0} {
+		w.Sess = append(w.Sess, impl.Sess{Place: place, Past: past})
+	}
+	w.Sess[3].Wait, w.Sess[3].Key = tagAt(1, 0), 0
+	w.Net = []impl.Frame{{From: 0, To: 1, At: 2, Ver: log[2]}, {From: 0, To: 2, At: 2, Ver: log[2]}, {From: 0, To: 2, At: 3, Ver: log[3]}}
+	w.Hist = []impl.Done{wrote(3, 0, tagAt(1, 0))}
+	return w
+}
+
+func manyWorlds() []impl.World {
+	list := []impl.World{storyWorld(), newWorldModel(1, 0), newWorldModel(4, 4), sharedWorld(), {}}
+	for seed := int64(0); seed < 4; seed++ {
+		list = append(list, steppedWorld(seed, 1+int(seed), 4, 60))
+	}
+	for i, w := range edgeWorlds() {
+		if i%3 == 0 {
+			list = append(list, w)
+		}
+	}
+	for name, w := range badWorlds() {
+		if len(name) < 14 {
+			list = append(list, w)
+		}
+	}
+	return list
+}
+
+// callsOf is a few calls of every function that takes a world.
+func callsOf(w impl.World) []call {
+	list := []call{{"WorldOk", impl.WorldOk, []any{w}}, {"WorldSafe", impl.WorldSafe, []any{w}}, {"WorldSame", impl.WorldSame, []any{w}}}
+	for _, rounds := range []int{-1, 0, 1, 2, 81} {
+		list = append(list, call{"WorldCalm", impl.WorldCalm, []any{w, rounds}})
+	}
+	for kind := 0; kind <= 14; kind++ {
+		for at := 0; at <= 3; at++ {
+			list = append(list, call{"WorldDo", impl.WorldDo, []any{w, impl.Event{Kind: kind, At: at, Num: (at + 1) % 3}}})
+		}
+		list = append(list, call{"WorldDo", impl.WorldDo, []any{w, impl.Event{Kind: kind, Num: -1, Key: 9}}})
+	}
+	return list
+}
+
+func worldCalls() []call {
+	list := callsOf(sharedWorld())
+	for _, w := range manyWorlds() {
+		list = append(list, callsOf(roomyWorld(w))...)
+	}
+	r := rand.New(rand.NewSource(27))
+	for _, n := range extremes() {
+		for _, e := range []impl.Event{{At: n, Num: 1}, {At: 3, Num: n}, {Num: 1, Key: n}} {
+			for e.Kind = 1; e.Kind <= 13; e.Kind++ {
+				list = append(list, call{"WorldDo", impl.WorldDo, []any{sharedWorld(), e}})
+			}
+		}
+		list = append(list, call{"WorldNew", impl.WorldNew, []any{n, 4}}, call{"WorldNew", impl.WorldNew, []any{2, n}})
+		events := roomyList(someEvents(r, 2, 4, 70), impl.Event{Kind: impl.EventJoin})
+		list = append(list, call{"WorldPlay", impl.WorldPlay, []any{n, 4, events}}, call{"WorldPlay", impl.WorldPlay, []any{2, n, events[:50]}})
+	}
+	return list
+}
+
+func histCalls() []call {
+	list := []call{{"HistGet", impl.HistGet, []any{""}}}
+	add := func(hist []impl.Done) {
+		hist = roomyList(hist, impl.Done{Sess: 9})
+		list = append(list, call{"HistOk", impl.HistOk, []any{hist}}, call{"HistFar", impl.HistFar, []any{hist}}, call{"HistPut", impl.HistPut, []any{hist}})
+		for _, sess := range places() {
+			list = append(list, call{"HistSees", impl.HistSees, []any{hist, sess}})
+		}
+	}
+	for i, hist := range histList() {
+		if i%4 == 0 {
+			add(hist)
+			list = append(list, call{"HistGet", impl.HistGet, []any{histText(hist)}})
+		}
+	}
+	for _, hist := range badHists() {
+		add(hist)
+	}
+	for _, s := range neighbours("1 write 2 13.0\n3 sure 0 1.2\n") {
+		list = append(list, call{"HistGet", impl.HistGet, []any{s}})
+	}
+	return list
+}
+
 func allCalls() []call {
 	list := append(tagCalls(), textCalls()...)
 	list = append(list, pastCalls()...)
 	list = append(list, storeCalls()...)
 	list = append(list, chainCalls()...)
-	return append(list, placeCalls()...)
+	list = append(list, placeCalls()...)
+	list = append(list, worldCalls()...)
+	return append(list, histCalls()...)
 }
 
 func TestFunctionsReturnAndChangeNoArgument(t *testing.T) {
