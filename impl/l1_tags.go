@@ -1,6 +1,7 @@
 package impl
 
 import (
+	"cmp"
 	"strconv"
 	"strings"
 )
@@ -43,10 +44,12 @@ func TagLess(a Tag, b Tag) bool {
 }
 
 func (t Tag) less(other Tag) bool {
-	if t.Time != other.Time {
-		return t.Time < other.Time
-	}
-	return t.Place < other.Place
+	return t.compare(other) < 0
+}
+
+// compare is negative if t is earlier, and positive if it is later; sorting asks for that.
+func (t Tag) compare(other Tag) int {
+	return cmp.Or(cmp.Compare(t.Time, other.Time), cmp.Compare(t.Place, other.Place))
 }
 
 // TagMax is the later one of two tags.

@@ -2,8 +2,10 @@ package tests
 
 import (
 	"fmt"
+	"math"
 	"math/rand"
 	"reflect"
+	"strings"
 	"testing"
 
 	"loop.example/confluence/impl"
@@ -460,6 +462,69 @@ func histCalls() []call {
 	return list
 }
 
+func roomyFrame(f impl.Frame) impl.Frame {
+	f.Ver = roomyVer(f.Ver)
+	return f
+}
+
+func wireCalls() []call {
+	var list []call
+	for _, s := range append(sumTexts()[:9], strings.Repeat("#", 120), strings.Repeat(">", 121), strings.Repeat(" ", 5000)) {
+		list = append(list, call{"Crc", impl.Crc, []any{s}}, call{"FrameGet", impl.FrameGet, []any{s}}, call{"FrameGet", impl.FrameGet, []any{summed(s)}})
+	}
+	for i, f := range frameList() {
+		if i%4 == 0 {
+			list = append(list, call{"FramePut", impl.FramePut, []any{roomyFrame(f)}}, call{"FrameGet", impl.FrameGet, []any{summed(bodyText(f))}})
+		}
+	}
+	for _, f := range badFrames() {
+		list = append(list, call{"FramePut", impl.FramePut, []any{roomyFrame(f)}})
+	}
+	for _, s := range neighbours(bodyText(longFrame())) {
+		list = append(list, call{"FrameGet", impl.FrameGet, []any{summed(s)}})
+	}
+	for _, p := range manyPlaces() {
+		for to := -1; to <= 3; to++ {
+			list = append(list, call{"PlaceTold", impl.PlaceTold, []any{roomyPlace(p), to, 0}})
+		}
+	}
+	for _, n := range extremes() {
+		list = append(list, call{"PlaceTold", impl.PlaceTold, []any{sharedPlace(), n, 0}}, call{"PlaceTold", impl.PlaceTold, []any{sharedPlace(), 1, n}})
+	}
+	return list
+}
+
+func causeCalls() []call {
+	var list []call
+	add := func(hist []impl.Done) {
+		hist = roomyList(hist, impl.Done{Sess: 9})
+		list = append(list, call{"CauseAll", impl.CauseAll, []any{hist}})
+		for _, a := range []impl.Tag{{}, tagAt(1, 0), tagAt(2, 1), tagAt(-1, 5), tagAt(math.MaxInt, math.MinInt)} {
+			list = append(list, call{"CauseOf", impl.CauseOf, []any{hist, a}}, call{"CauseApart", impl.CauseApart, []any{hist, a}})
+			list = append(list, call{"CauseAhead", impl.CauseAhead, []any{hist, a, tagAt(2, 1)}}, call{"CauseAhead", impl.CauseAhead, []any{hist, tagAt(1, 0), a}})
+		}
+	}
+	for i, hist := range append(histList(), threeWrites(), writesAside()) {
+		if i%4 == 0 {
+			add(hist)
+		}
+	}
+	for _, hist := range badHists() {
+		add(hist)
+	}
+	for _, w := range manyWorlds() {
+		w = roomyWorld(w)
+		list = append(list, call{"WorldLag", impl.WorldLag, []any{w}})
+		for n := -1; n <= 4; n++ {
+			list = append(list, call{"WorldNodes", impl.WorldNodes, []any{w, n, 1}}, call{"WorldNodes", impl.WorldNodes, []any{w, 0, n}})
+		}
+	}
+	for _, n := range extremes() {
+		list = append(list, call{"WorldNodes", impl.WorldNodes, []any{sharedWorld(), n, 1}}, call{"WorldNodes", impl.WorldNodes, []any{sharedWorld(), 1, n}})
+	}
+	return list
+}
+
 func allCalls() []call {
 	list := append(tagCalls(), textCalls()...)
 	list = append(list, pastCalls()...)
@@ -467,7 +532,9 @@ func allCalls() []call {
 	list = append(list, chainCalls()...)
 	list = append(list, placeCalls()...)
 	list = append(list, worldCalls()...)
-	return append(list, histCalls()...)
+	list = append(list, histCalls()...)
+	list = append(list, wireCalls()...)
+	return append(list, causeCalls()...)
 }
 
 func TestFunctionsReturnAndChangeNoArgument(t *testing.T) {

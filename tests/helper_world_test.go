@@ -15,10 +15,11 @@ func sameWorld(a impl.World, b impl.World) bool {
 	sameSess := func(s impl.Sess, o impl.Sess) bool {
 		return s.Place == o.Place && samePast(s.Past, o.Past) && s.Wait == o.Wait && s.Key == o.Key
 	}
-	sameFrame := func(f impl.Frame, o impl.Frame) bool {
-		return f.From == o.From && f.To == o.To && f.At == o.At && sameVer(f.Ver, o.Ver)
-	}
 	return slices.EqualFunc(a.Places, b.Places, samePlace) && slices.EqualFunc(a.Sess, b.Sess, sameSess) && slices.EqualFunc(a.Net, b.Net, sameFrame) && slices.Equal(a.Hist, b.Hist)
+}
+
+func sameFrame(a impl.Frame, b impl.Frame) bool {
+	return a.From == b.From && a.To == b.To && a.At == b.At && sameVer(a.Ver, b.Ver)
 }
 
 func copyOfWorld(w impl.World) impl.World {
