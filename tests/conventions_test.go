@@ -5,6 +5,7 @@ import (
 	"math"
 	"math/rand"
 	"reflect"
+	"slices"
 	"strings"
 	"testing"
 
@@ -525,6 +526,28 @@ func causeCalls() []call {
 	return list
 }
 
+func sessionCalls() []call {
+	r := rand.New(rand.NewSource(9))
+	sessions := [][]string{nil, {}, {""}, {"world"}, {"world 5 5", "safe"}, {"safe"}, linesOf(documentSession())}
+	for i := 0; i < 12; i++ {
+		sessions = append(sessions, someSession(r, 20+5*i))
+	}
+	for _, line := range goodLines() {
+		sessions = append(sessions, []string{line}, append([]string{"world 2 2"}, brokenLines(line)...))
+		for _, word := range badNumbers() {
+			sessions = append(sessions, append([]string{"world 2 2"}, withNumber(line, word)...))
+		}
+	}
+	for _, line := range []string{strings.Repeat(" ", 5000), strings.Repeat("9", 5000), "write 0 0 =" + strings.Repeat("=", 5000), "\xff\x00\n"} {
+		sessions = append(sessions, []string{line, line}, []string{"world 1 1", line}, slices.Repeat([]string{line}, 500))
+	}
+	var list []call
+	for _, lines := range sessions {
+		list = append(list, call{"Session", impl.Session, []any{roomyList(lines, "join 0")}})
+	}
+	return list
+}
+
 func allCalls() []call {
 	list := append(tagCalls(), textCalls()...)
 	list = append(list, pastCalls()...)
@@ -534,7 +557,8 @@ func allCalls() []call {
 	list = append(list, worldCalls()...)
 	list = append(list, histCalls()...)
 	list = append(list, wireCalls()...)
-	return append(list, causeCalls()...)
+	list = append(list, causeCalls()...)
+	return append(list, sessionCalls()...)
 }
 
 func TestFunctionsReturnAndChangeNoArgument(t *testing.T) {
