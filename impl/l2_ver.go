@@ -9,8 +9,8 @@ import (
 // TextMax is how many bytes a text has at most.
 const TextMax = 8
 
-// verWords is how many words VerPut writes: the key, its tag, the tags of Past, and the rest.
-const verWords = KeyMax + 3
+// bodyWords is how many words a version has behind its tag: the tags of Past, and the rest.
+const bodyWords = KeyMax + 1
 
 // Ver is a version of a key: a text, or that it is gone, its tag, and its causes.
 type Ver struct {
@@ -111,32 +111,44 @@ func VerPut(v Ver) string {
 	if !VerOk(v) {
 		return ""
 	}
-	words := []string{strconv.Itoa(v.Key), TagPut(v.Tag)}
-	for _, t := range v.Past.Tags {
+	return strconv.Itoa(v.Key) + " " + TagPut(v.Tag) + " " + putBody(v.Past, contentOf(v.Text, v.Gone))
+}
+
+// putBody is what versions and the records of writes have in common.
+func putBody(past Past, c content) string {
+	var words []string
+	for _, t := range past.Tags {
 		words = append(words, TagPut(t))
 	}
-	words = append(words, contentOf(v.Text, v.Gone).rest())
-	return strings.Join(words, " ")
+	return strings.Join(append(words, c.rest()), " ")
 }
 
 // VerGet reads a version.
 func VerGet(s string) (Ver, bool) {
-	words := strings.SplitN(s, " ", verWords)
-	if len(words) != verWords {
+	key, s, _ := strings.Cut(s, " ")
+	tag, s, _ := strings.Cut(s, " ")
+	keyNumber, keyOk := readNumber(key)
+	t, tagOk := TagGet(tag)
+	past, c, bodyOk := readBody(s)
+	if !keyOk || !tagOk || !bodyOk {
 		return Ver{}, false
 	}
-	key, keyOk := readNumber(words[0])
-	tag, tagOk := TagGet(words[1])
-	past, pastOk := readPast(words[2 : verWords-1])
-	rest, restOk := readContent(words[verWords-1])
-	if !keyOk || !tagOk || !pastOk || !restOk {
-		return Ver{}, false
-	}
-	v := rest.into(Ver{Key: key, Tag: tag, Past: past})
+	v := c.into(Ver{Key: keyNumber, Tag: t, Past: past})
 	if !VerOk(v) {
 		return Ver{}, false
 	}
 	return v, true
+}
+
+// readBody does not check the text, as readContent does not.
+func readBody(s string) (Past, content, bool) {
+	words := strings.SplitN(s, " ", bodyWords)
+	if len(words) != bodyWords {
+		return Past{}, nil, false
+	}
+	past, pastOk := readPast(words[:KeyMax])
+	c, contentOk := readContent(words[KeyMax])
+	return past, c, pastOk && contentOk
 }
 
 func readPast(words []string) (Past, bool) {

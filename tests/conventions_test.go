@@ -548,6 +548,124 @@ func sessionCalls() []call {
 	return list
 }
 
+func ringCalls() []call {
+	var list []call
+	rings := ringList()[:24]
+	for _, r := range badRings() {
+		if len(r.Names) < 3 || len(r.Names) > 6 {
+			rings = append(rings, r)
+		}
+	}
+	names := append(nameList()[:6], badNames()[:6]...)
+	keys := append(ringKeys()[:4], badKeys()...)
+	for _, r := range rings {
+		r = impl.Ring{Names: roomyList(r.Names, "spare")}
+		list = append(list, call{"RingOk", impl.RingOk, []any{r}})
+		for _, name := range append(names, r.Names...) {
+			list = append(list, call{"RingAdd", impl.RingAdd, []any{r, name}}, call{"RingDrop", impl.RingDrop, []any{r, name}})
+		}
+		for _, key := range keys {
+			list = append(list, call{"RingOwner", impl.RingOwner, []any{r, key}}, call{"RingChain", impl.RingChain, []any{r, key, 2}}, call{"RingChain", impl.RingChain, []any{r, key, 6}})
+		}
+		for _, many := range []int{math.MinInt, -1, 0, 1, 7, math.MaxInt} {
+			list = append(list, call{"RingChain", impl.RingChain, []any{r, "a", many}})
+		}
+		for _, other := range rings[:6] {
+			other = impl.Ring{Names: roomyList(other.Names, "spare")}
+			list = append(list, call{"RingMoved", impl.RingMoved, []any{r, other, roomyList(keys, "spare")}})
+		}
+		list = append(list, call{"RingMoved", impl.RingMoved, []any{r, r, r.Names}}, call{"RingMoved", impl.RingMoved, []any{r, r, []string(nil)}})
+	}
+	return list
+}
+
+func guardCalls() []call {
+	var list []call
+	add := func(hist []impl.Done) {
+		hist = roomyList(hist, impl.Done{Sess: 9})
+		list = append(list, call{"GuardWritten", impl.GuardWritten, []any{hist}}, call{"GuardReads", impl.GuardReads, []any{hist}})
+		list = append(list, call{"GuardOwn", impl.GuardOwn, []any{hist}}, call{"GuardFollow", impl.GuardFollow, []any{hist}})
+		for _, sess := range places() {
+			list = append(list, call{"GuardOnly", impl.GuardOnly, []any{hist, sess}})
+		}
+	}
+	for i, hist := range guardList() {
+		if i%20 == 0 {
+			add(hist)
+		}
+	}
+	add(nil)
+	// A history of one client alone is the one that could be handed on as it is.
+	add(readsOfNothing(1, 80))
+	for _, hist := range badHists() {
+		add(hist)
+	}
+	return list
+}
+
+func roomyRec(r impl.Rec) impl.Rec {
+	r.Ver = roomyVer(r.Ver)
+	return r
+}
+
+func recCalls() []call {
+	var list []call
+	good := roomyPlace(goodPlace())
+	for i, r := range recList() {
+		if i%5 == 0 {
+			list = append(list, call{"RecPut", impl.RecPut, []any{roomyRec(r)}}, call{"RecGet", impl.RecGet, []any{recText(r)}}, call{"RecDo", impl.RecDo, []any{good, roomyRec(r)}})
+		}
+	}
+	for _, r := range badRecs() {
+		list = append(list, call{"RecPut", impl.RecPut, []any{roomyRec(r)}}, call{"RecDo", impl.RecDo, []any{good, roomyRec(r)}}, call{"RecDo", impl.RecDo, []any{impl.Place{}, roomyRec(r)}})
+	}
+	for _, s := range append(neighbours("write 1 0.0 2.1 0.0 0.0 =a"), neighbours("hear 1 9 0 3.1 0.0 0.0 0.0 2.0 -")...) {
+		list = append(list, call{"RecGet", impl.RecGet, []any{s}})
+	}
+	shared := sharedPlace()
+	past := shared.Chain.Nodes[0].Store.Vers[0].Past
+	recs := append(stepRecs(), hearRec(1, 1, value(1, tagAt(99, 1), "a")), writeRec(2, "x", impl.PastNone()), impl.Rec{Kind: -1})
+	for _, p := range append(manyPlaces(), shared) {
+		for _, r := range recs {
+			list = append(list, call{"RecDo", impl.RecDo, []any{roomyPlace(p), roomyRec(r)}})
+		}
+	}
+	for _, r := range append(recs, writeRec(2, "x", past), hearRec(1, 1, impl.Ver{Key: 1, Tag: tagAt(99, 1), Past: past})) {
+		list = append(list, call{"RecDo", impl.RecDo, []any{shared, r}})
+	}
+	return list
+}
+
+func jourCalls() []call {
+	r := rand.New(rand.NewSource(12))
+	var list []call
+	add := func(j string) {
+		list = append(list, call{"JourRead", impl.JourRead, []any{j}})
+		for _, rec := range []impl.Rec{{}, {Kind: impl.EventJoin}, writeRec(1, "a", impl.PastNone()), hearRec(2, 0, value(1, tagAt(9, 2), "a"))} {
+			list = append(list, call{"JourAdd", impl.JourAdd, []any{j, roomyRec(rec)}})
+			for _, bytes := range []int{math.MinInt, -1, 0, 9, math.MaxInt} {
+				list = append(list, call{"JourTear", impl.JourTear, []any{j, roomyRec(rec), bytes}})
+			}
+		}
+	}
+	for i := 0; i < 12; i++ {
+		j, _ := someJour(r, i%3, 1+i%4, 2*i)
+		add(j)
+		add(j[:len(j)-1])
+		add(j[1:])
+	}
+	for _, j := range []string{"", "\n", " ", "0 1", "9 9\n", fullJour(8000), fullJour(8001), strings.Repeat(" ", 9000), "0 1\n" + strings.Repeat(" ", 5000), "0 1\n" + strings.Repeat("9", 5000), "0 1\n9223372036854775807 0 join;", "0 1\n-9223372036854775808 0 join;", "0 1\n" + strings.Repeat(";", 5000)} {
+		add(j)
+	}
+	for _, broken := range brokenEntries("join") {
+		add("1 2\n" + broken)
+	}
+	for _, k := range places() {
+		list = append(list, call{"JourNew", impl.JourNew, []any{k, 1}}, call{"JourNew", impl.JourNew, []any{1, k}})
+	}
+	return list
+}
+
 func allCalls() []call {
 	list := append(tagCalls(), textCalls()...)
 	list = append(list, pastCalls()...)
@@ -558,7 +676,11 @@ func allCalls() []call {
 	list = append(list, histCalls()...)
 	list = append(list, wireCalls()...)
 	list = append(list, causeCalls()...)
-	return append(list, sessionCalls()...)
+	list = append(list, sessionCalls()...)
+	list = append(list, ringCalls()...)
+	list = append(list, guardCalls()...)
+	list = append(list, recCalls()...)
+	return append(list, jourCalls()...)
 }
 
 func TestFunctionsReturnAndChangeNoArgument(t *testing.T) {
@@ -631,6 +753,10 @@ func spoil(v reflect.Value) {
 	case reflect.Int:
 		if v.CanSet() {
 			v.SetInt(77)
+		}
+	case reflect.String:
+		if v.CanSet() {
+			v.SetString("spoilt")
 		}
 	}
 }
